@@ -1,0 +1,67 @@
+package tests
+
+import (
+	"go/ast"
+	"testing"
+)
+
+// bodyOf returns what a function of impl does.
+func (c *code) bodyOf(name string) *ast.BlockStmt {
+	for _, file := range c.files {
+		for _, d := range file.Decls {
+			if f, ok := d.(*ast.FuncDecl); ok && f.Name.Name == name {
+				return f.Body
+			}
+		}
+	}
+	return nil
+}
+
+// uses reports whether a piece of code names something of impl, or a function that does.
+func (c *code) uses(n ast.Node, name string, seen map[string]bool) bool {
+	found := false
+	ast.Inspect(n, func(n ast.Node) bool {
+		id, ok := n.(*ast.Ident)
+		if !ok || c.info.Uses[id] == nil || found {
+			return !found
+		}
+		found = id.Name == name
+		if body := c.bodyOf(id.Name); !found && body != nil && !seen[id.Name] {
+			seen[id.Name] = true
+			found = c.uses(body, name, seen)
+		}
+		return !found
+	})
+	return found
+}
+
+func (c *code) reaches(t *testing.T, from string, names ...string) {
+	t.Helper()
+	for _, name := range names {
+		body := c.bodyOf(from)
+		if body == nil || !c.uses(body, name, map[string]bool{}) {
+			t.Errorf("%s does without %s", from, name)
+		}
+	}
+}
+
+// Of the section Ways: statements as bytes of a code; states as numbers with
+// tables of their figures; loops told out as they are read.
+func TestWaysOfPrograms(t *testing.T) {
+	c := readCode(t)
+	for _, name := range []string{"StmtOk", "StmtReads", "StmtSets"} {
+		c.reaches(t, name, "kindCodes")
+	}
+	c.reaches(t, "ValueAt", "placeOf")
+	c.reaches(t, "WithValue", "placeOf")
+	asRead := false
+	ast.Inspect(c.bodyOf("Unrolled"), func(n ast.Node) bool {
+		if round, ok := n.(*ast.ForStmt); ok {
+			asRead = asRead || c.uses(round, "StLoop", map[string]bool{}) && c.uses(round, "append", map[string]bool{})
+		}
+		return true
+	})
+	if !asRead {
+		t.Error("Unrolled does not tell loops out as it reads them")
+	}
+}
