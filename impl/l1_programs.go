@@ -167,7 +167,7 @@ func CountDraws(p []Stmt) int {
 	}
 	many := 0
 	for _, s := range list {
-		if s.Kind == StDraw || s.Kind == StDrawBy {
+		if isDraw(s) {
 			many++
 		}
 	}
@@ -257,6 +257,8 @@ func placeOf(v int) int {
 	}
 	return 27
 }
+
+func isDraw(s Stmt) bool { return s.Kind == StDraw || s.Kind == StDrawBy }
 
 func varOk(v int) bool { return within(v, 0, Vars-1) }
 

@@ -65,3 +65,17 @@ func TestWaysOfPrograms(t *testing.T) {
 		t.Error("Unrolled does not tell loops out as it reads them")
 	}
 }
+
+// Of the section Ways: one row of draws that counts up; runs that begin where
+// the last one differs; weights kept on a stack.
+func TestWaysOfTraces(t *testing.T) {
+	c := readCode(t)
+	for _, name := range []string{"TracesOf", "BestTrace"} {
+		c.reaches(t, name, "countUp")
+		if c.uses(c.bodyOf(name), "RunTrace", map[string]bool{}) {
+			t.Errorf("%s runs each trace from the first statement on", name)
+		}
+	}
+	c.reaches(t, "countUp", "row", "stack")
+	c.reaches(t, "runOn", "stack", "weight")
+}
