@@ -79,3 +79,17 @@ func TestWaysOfTraces(t *testing.T) {
 	c.reaches(t, "countUp", "row", "stack")
 	c.reaches(t, "runOn", "stack", "weight")
 }
+
+// Of the section Ways: weights kept for the states alone that have one;
+// statements that draw nothing done by moving; variables that are over left out.
+func TestWaysOfWeights(t *testing.T) {
+	c := readCode(t)
+	for _, name := range []string{"WeightsFrom", "TotalOf", "PushOn"} {
+		c.reaches(t, name, "front", "step", "liveAhead", "valuesOnly")
+		if c.uses(c.bodyOf(name), "tracer", map[string]bool{}) {
+			t.Errorf("%s goes through traces", name)
+		}
+	}
+	c.reaches(t, "put", "weight", "where", "live", "valuesOnly")
+	c.reaches(t, "step", "isDraw", "stepRun", "put")
+}
