@@ -93,3 +93,32 @@ func TestWaysOfWeights(t *testing.T) {
 	c.reaches(t, "put", "weight", "where", "live", "valuesOnly")
 	c.reaches(t, "step", "isDraw", "stepRun", "put")
 }
+
+// Of the section Ways: common divisors kept while one sums; means by one pass;
+// products of two words.
+func TestWaysOfAnswers(t *testing.T) {
+	c := readCode(t)
+	for _, name := range []string{"Reduced", "AnswerOf"} {
+		c.reaches(t, name, "tallyOf", "divided")
+	}
+	c.reaches(t, "tallyOf", "sum", "common", "commonOf")
+	if many := countLoops(c.bodyOf("tallyOf")); many != 1 {
+		t.Errorf("tallyOf goes over numbers %d times", many)
+	}
+	if many := countLoops(c.bodyOf("MeanOf")); many != 1 || c.uses(c.bodyOf("MeanOf"), "MarginalOf", map[string]bool{}) {
+		t.Errorf("MeanOf has %d passes of its own", many)
+	}
+	c.reaches(t, "Apart", "productOf", "twoWords", "high", "low")
+}
+
+func countLoops(n ast.Node) int {
+	many := 0
+	ast.Inspect(n, func(n ast.Node) bool {
+		switch n.(type) {
+		case *ast.ForStmt, *ast.RangeStmt:
+			many++
+		}
+		return true
+	})
+	return many
+}
