@@ -170,17 +170,21 @@ var runStmts = []impl.Stmt{
 	{Kind: impl.StLoop, B: 1, C: 0},
 }
 
+// smallPrograms returns all rows of up to three of runStmts.
+func smallPrograms() [][]impl.Stmt {
+	all := [][]impl.Stmt{nil}
+	for at := 0; len(all[at]) < 3; at++ {
+		for _, s := range runStmts {
+			all = append(all, join(all[at], []impl.Stmt{s}))
+		}
+	}
+	return all
+}
+
 // Promise 2, for all programs of up to three statements out of some, and for some of more.
 func TestTracesOfAll(t *testing.T) {
-	checkTraces(t, nil)
-	for _, r := range runStmts {
-		checkTraces(t, []impl.Stmt{r})
-		for _, s := range runStmts {
-			checkTraces(t, []impl.Stmt{r, s})
-			for _, u := range runStmts {
-				checkTraces(t, []impl.Stmt{r, s, u})
-			}
-		}
+	for _, p := range smallPrograms() {
+		checkTraces(t, p)
 	}
 	for i := range 5000 {
 		checkTraces(t, manyStmts(i, 4+i%7))
@@ -324,16 +328,21 @@ func TestTracesOfManyDraws(t *testing.T) {
 	checkTraces(t, join(times(loop(7, 0), 1), times(draw1, 7)))
 }
 
+// Statements that are no program, each for another reason.
+var noPrograms = [][]impl.Stmt{
+	times(set0, 11),
+	{draw1, loop(1, 1)},
+	{loop(1, 0), {Kind: impl.StDraw}},
+	{{Kind: 8}},
+	{{Kind: -1}},
+	{{Kind: impl.StDraw, A: 4, W: someW}},
+	{{Kind: impl.StWeigh, A: 1, W: [3]int{1, 10, 0}}},
+	{{Kind: impl.StSkip, A: 1, B: 13}},
+	join(times(loop(3, 3), 1), times(set0, 7)),
+}
+
 func TestTracesOfNoPrograms(t *testing.T) {
-	for _, p := range [][]impl.Stmt{
-		times(set0, 11),
-		{draw1, loop(1, 1)},
-		{loop(1, 0), {Kind: impl.StDraw}},
-		{{Kind: 8}},
-		{{Kind: impl.StDraw, A: 4, W: someW}},
-		{{Kind: impl.StSkip, A: 1, B: 13}},
-		join(times(loop(3, 3), 1), times(set0, 7)),
-	} {
+	for _, p := range noPrograms {
 		checkTraces(t, p)
 	}
 }

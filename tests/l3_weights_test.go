@@ -139,15 +139,8 @@ func wideStmts(number int, many int) []impl.Stmt {
 
 // Promise 3: weights are sums over traces.
 func TestWeightsOfAll(t *testing.T) {
-	checkWeights(t, nil, 5)
-	for i, r := range runStmts {
-		checkWeights(t, []impl.Stmt{r}, i)
-		for j, s := range runStmts {
-			checkWeights(t, []impl.Stmt{r, s}, 17*i+j)
-			for k, u := range runStmts {
-				checkWeights(t, []impl.Stmt{r, s, u}, 5*i+7*j+k)
-			}
-		}
+	for i, p := range smallPrograms() {
+		checkWeights(t, p, i)
 	}
 	for i := range 4000 {
 		p := wideStmts(i, 2+i%9)
@@ -434,17 +427,7 @@ func TestJoinedSkips(t *testing.T) {
 }
 
 func TestWeightsOfNoPrograms(t *testing.T) {
-	for _, p := range [][]impl.Stmt{
-		times(set0, 11),
-		{draw1, loop(1, 1)},
-		{loop(1, 0), {Kind: impl.StDraw}},
-		{{Kind: 8}},
-		{{Kind: -1}},
-		{{Kind: impl.StDraw, A: 4, W: someW}},
-		{{Kind: impl.StWeigh, A: 1, W: [3]int{1, 10, 0}}},
-		{{Kind: impl.StSkip, A: 1, B: 13}},
-		join(times(loop(3, 3), 1), times(set0, 7)),
-	} {
+	for _, p := range noPrograms {
 		checkNoWeights(t, p)
 	}
 }

@@ -554,15 +554,8 @@ func checkAnswer(t *testing.T, p []impl.Stmt) {
 }
 
 func TestAnswersOfAll(t *testing.T) {
-	checkAnswer(t, nil)
-	for _, r := range runStmts {
-		checkAnswer(t, []impl.Stmt{r})
-		for _, s := range runStmts {
-			checkAnswer(t, []impl.Stmt{r, s})
-			for _, u := range runStmts {
-				checkAnswer(t, []impl.Stmt{r, s, u})
-			}
-		}
+	for _, p := range smallPrograms() {
+		checkAnswer(t, p)
 	}
 	for i := range 1500 {
 		p := wideStmts(i, 2+i%9)

@@ -2,6 +2,7 @@ package tests
 
 import (
 	"go/ast"
+	"go/token"
 	"testing"
 )
 
@@ -109,6 +110,54 @@ func TestWaysOfAnswers(t *testing.T) {
 		t.Errorf("MeanOf has %d passes of its own", many)
 	}
 	c.reaches(t, "Apart", "productOf", "twoWords", "high", "low")
+}
+
+// Of the section Ways: one row of values that is changed in its place; states
+// that nothing leads to left out; statements from the last one on.
+func TestWaysOfBackward(t *testing.T) {
+	c := readCode(t)
+	for _, name := range []string{"ValuesBack", "StepBack", "WorthOf", "ChanceOf"} {
+		c.reaches(t, name, "worthAhead", "ledFrom", "takeBack")
+	}
+	for _, name := range []string{"ValuesBack", "StepBack", "WorthOf"} {
+		for _, forward := range []string{"sweep", "tracer"} {
+			if c.uses(c.bodyOf(name), forward, map[string]bool{}) {
+				t.Errorf("%s goes forward by %s", name, forward)
+			}
+		}
+	}
+	c.reaches(t, "worthIn", "led", "row")
+	fromLast := false
+	ast.Inspect(c.bodyOf("worthAhead"), func(n ast.Node) bool {
+		if round, ok := n.(*ast.ForStmt); ok {
+			step, ok := round.Post.(*ast.IncDecStmt)
+			fromLast = fromLast || ok && step.Tok == token.DEC && c.uses(round, "takeBack", map[string]bool{})
+		}
+		return true
+	})
+	if !fromLast {
+		t.Error("worthAhead does not go from the last statement on")
+	}
+	if !setsIn(c.bodyOf("takeThree"), "row") {
+		t.Error("takeThree does not change the row in its place")
+	}
+}
+
+// setsIn reports whether a piece of code sets elements of a list that is a field.
+func setsIn(n ast.Node, field string) bool {
+	found := false
+	ast.Inspect(n, func(n ast.Node) bool {
+		set, ok := n.(*ast.AssignStmt)
+		if !ok || len(set.Lhs) != 1 {
+			return true
+		}
+		if element, ok := set.Lhs[0].(*ast.IndexExpr); ok {
+			list, ok := element.X.(*ast.SelectorExpr)
+			found = found || ok && list.Sel.Name == field
+		}
+		return true
+	})
+	return found
 }
 
 func countLoops(n ast.Node) int {
