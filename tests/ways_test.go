@@ -143,6 +143,25 @@ func TestWaysOfBackward(t *testing.T) {
 	}
 }
 
+// Of the section Ways: a window of two that moves back after each change; rows
+// of weights as one number; kinds by a table.
+func TestWaysOfChanges(t *testing.T) {
+	c := readCode(t)
+	for _, name := range []string{"ChangeOk", "ChangeDo", "ChangesOf", "FactorBy", "Tidy"} {
+		c.reaches(t, name, "windowAt", "changeCodes", "rowOf")
+	}
+	c.reaches(t, "foldedWeights", "rowOf", "weightsOfRow")
+	c.reaches(t, "moved", "rowOf", "turnedRow", "weightsOfRow")
+	c.reaches(t, "Tidy", "toChange", "do")
+	if c.uses(c.bodyOf("Tidy"), "ChangesOf", map[string]bool{}) {
+		t.Error("Tidy looks for all changes again after each one")
+	}
+	c.reaches(t, "do", "withChange", "moveBack")
+	if !setsIn(c.bodyOf("moveBack"), "from") {
+		t.Error("moveBack does not move the window")
+	}
+}
+
 // setsIn reports whether a piece of code sets elements of a list that is a field.
 func setsIn(n ast.Node, field string) bool {
 	found := false
