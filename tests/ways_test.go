@@ -127,15 +127,7 @@ func TestWaysOfBackward(t *testing.T) {
 		}
 	}
 	c.reaches(t, "worthIn", "led", "row")
-	fromLast := false
-	ast.Inspect(c.bodyOf("worthAhead"), func(n ast.Node) bool {
-		if round, ok := n.(*ast.ForStmt); ok {
-			step, ok := round.Post.(*ast.IncDecStmt)
-			fromLast = fromLast || ok && step.Tok == token.DEC && c.uses(round, "takeBack", map[string]bool{})
-		}
-		return true
-	})
-	if !fromLast {
+	if !c.countsDown("worthAhead", "takeBack") {
 		t.Error("worthAhead does not go from the last statement on")
 	}
 	if !setsIn(c.bodyOf("takeThree"), "row") {
@@ -160,6 +152,46 @@ func TestWaysOfChanges(t *testing.T) {
 	if !setsIn(c.bodyOf("moveBack"), "from") {
 		t.Error("moveBack does not move the window")
 	}
+}
+
+// Of the section Ways: sets as bits; one pass from the end; statements marked in
+// one word.
+func TestWaysOfSlices(t *testing.T) {
+	c := readCode(t)
+	for _, name := range []string{"NeedsOf", "SliceOf", "LiveAt"} {
+		c.reaches(t, name, "markedTo", "mark", "bitOf")
+		if c.uses(c.bodyOf(name), "sweep", map[string]bool{}) {
+			t.Errorf("%s goes forward", name)
+		}
+	}
+	c.reaches(t, "SeenOf", "liveAhead", "bitOf")
+	if many := countLoops(c.bodyOf("markedTo")); many != 1 || !c.countsDown("markedTo", "mark") {
+		t.Errorf("markedTo goes over statements %d times, or not from the last one on", many)
+	}
+	c.reaches(t, "mark", "needed")
+	c.reaches(t, "isMarked", "needed")
+	marksBit := false
+	ast.Inspect(c.bodyOf("mark"), func(n ast.Node) bool {
+		set, ok := n.(*ast.AssignStmt)
+		marksBit = marksBit || ok && set.Tok == token.OR_ASSIGN
+		return true
+	})
+	if !marksBit {
+		t.Error("mark does not mark statements by bits")
+	}
+}
+
+// countsDown reports whether a function has a loop that counts down and calls another one.
+func (c *code) countsDown(name string, called string) bool {
+	found := false
+	ast.Inspect(c.bodyOf(name), func(n ast.Node) bool {
+		if round, ok := n.(*ast.ForStmt); ok {
+			step, ok := round.Post.(*ast.IncDecStmt)
+			found = found || ok && step.Tok == token.DEC && c.uses(round, called, map[string]bool{})
+		}
+		return true
+	})
+	return found
 }
 
 // setsIn reports whether a piece of code sets elements of a list that is a field.
