@@ -181,6 +181,27 @@ func TestWaysOfSlices(t *testing.T) {
 	}
 }
 
+// Of the section Ways: numbers by strides of variables; products filled in by
+// counting up; variables as bits.
+func TestWaysOfFactors(t *testing.T) {
+	c := readCode(t)
+	for _, name := range []string{"FactorTimes", "SumOut", "SetIn", "ListOfFactors"} {
+		c.reaches(t, name, "countedUp", "numberIn", "bitOf")
+	}
+	c.reaches(t, "FactorAt", "numberIn")
+	c.reaches(t, "FactorOk", "bitOf")
+	for _, name := range []string{"SingleOk", "FactorsOf"} {
+		c.reaches(t, name, "namedIn", "bitOf")
+	}
+	c.reaches(t, "FactorsOf", "countedUp")
+	c.reaches(t, "numberIn", "stride", "Values")
+	for _, name := range []string{"timesOver", "summed", "factorOfStmt"} {
+		if !setsIn(c.bodyOf(name), "Nums") {
+			t.Errorf("%s does not fill numbers in", name)
+		}
+	}
+}
+
 // countsDown reports whether a function has a loop that counts down and calls another one.
 func (c *code) countsDown(name string, called string) bool {
 	found := false
