@@ -545,7 +545,8 @@ func checkSingle(t *testing.T, p []impl.Stmt) {
 	}
 }
 
-// singleStmts are statements that draw or weigh, of all variables.
+// singleStmts are statements that draw or weigh: one of each kind and of all
+// variables that it may name.
 func singleStmts() []impl.Stmt {
 	rows := [][3]int{{1, 2, 4}, {0, 3, 5}, {9, 0, 1}, {0, 0, 7}, {6, 8, 0}, {2, 2, 2}, {9, 9, 9}}
 	var list []impl.Stmt
@@ -562,8 +563,8 @@ func singleStmts() []impl.Stmt {
 	return list
 }
 
-// Promise 8, for all programs of up to three statements that draw or weigh, for
-// some of four and five, and for all pairs of statements, with others among them.
+// Promise 8, for all programs of up to three statements out of some that draw or
+// weigh, for some of four, and for all pairs out of these and others.
 func TestSinglesOfAll(t *testing.T) {
 	some := singleStmts()
 	all := [][]impl.Stmt{nil}
