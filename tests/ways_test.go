@@ -202,6 +202,35 @@ func TestWaysOfFactors(t *testing.T) {
 	}
 }
 
+// Of the section Ways: products and sums in one pass; orders by dynamic
+// programming over sets of variables; factors as strided arrays.
+func TestWaysOfElimination(t *testing.T) {
+	c := readCode(t)
+	for _, name := range []string{"EliminateOne", "Eliminate"} {
+		c.reaches(t, name, "productTo", "stridedOf", "at", "strides")
+		for _, other := range []string{"timesOver", "summed"} {
+			if c.uses(c.bodyOf(name), other, map[string]bool{}) {
+				t.Errorf("%s takes products and sums one behind the other", name)
+			}
+		}
+	}
+	if !setsIn(c.bodyOf("productTo"), "Nums") {
+		t.Error("productTo does not add products as it takes them")
+	}
+	c.reaches(t, "at", "stride")
+	c.reaches(t, "BestOrder", "leastWidths")
+	for _, name := range []string{"WidthOf", "BestOrder", "GreedyOrder"} {
+		c.reaches(t, name, "setsOf", "widthBehind", "bitOf")
+		if c.uses(c.bodyOf(name), "productTo", map[string]bool{}) {
+			t.Errorf("%s multiplies numbers", name)
+		}
+	}
+	if c.uses(c.bodyOf("BestOrder"), "WidthOf", map[string]bool{}) || !c.countsDown("leastWidths", "nextBy") {
+		t.Error("BestOrder does not go over sets of variables, from the greatest one down")
+	}
+	c.reaches(t, "nextBy", "least", "gone")
+}
+
 // countsDown reports whether a function has a loop that counts down and calls another one.
 func (c *code) countsDown(name string, called string) bool {
 	found := false
