@@ -624,15 +624,19 @@ func TestGreatestElimination(t *testing.T) {
 	}
 }
 
-// What is no list has no elimination, whatever is wrong with it and wherever.
-func TestEliminationOfNoLists(t *testing.T) {
-	wrong := []impl.Factor{
+// wrongFactors are none that a list has.
+func wrongFactors() []impl.Factor {
+	return []impl.Factor{
 		{}, over(nil, 10), over(nil, -1), over(nil, 1, 1), over([]int{0}, 1, 1), over([]int{4}, 1, 1, 1), over([]int{-1}, 1, 1, 1),
 		over([]int{1, 1}, 1, 1, 1, 1, 1, 1, 1, 1, 1), over([]int{1, 0}, 1, 1, 1, 1, 1, 1, 1, 1, 1), over([]int{2}, 0, 0, 10),
 		over([]int{2}, 0, -1, 9), over([]int{3}, maxNumber, 0, 0), over([]int{3}, 0, 0, math.MinInt), over([]int{3}, math.MaxInt, 0, 0),
 		over([]int{0, 1, 2, 3, 3}, slices.Repeat([]int{1}, 243)...), over([]int{0, 1, 2, 3}, slices.Repeat([]int{1}, 80)...),
 	}
-	for _, f := range wrong {
+}
+
+// What is no list has no elimination, whatever is wrong with it and wherever.
+func TestEliminationOfNoLists(t *testing.T) {
+	for _, f := range wrongFactors() {
 		checkNoList(t, []impl.Factor{f})
 		for at := range 9 {
 			checkNoList(t, slices.Insert(overSets(at, []int{1, 2, 6, 12, 0, 15, 7, 8}[:max(at, 3)]), at, f))

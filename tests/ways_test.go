@@ -231,6 +231,30 @@ func TestWaysOfElimination(t *testing.T) {
 	c.reaches(t, "nextBy", "least", "gone")
 }
 
+// Of the section Ways: messages kept till all are told; from the leaves to a root
+// and back; pairs as bits.
+func TestWaysOfMessages(t *testing.T) {
+	c := readCode(t)
+	for _, name := range []string{"MessageOf", "BeliefOf"} {
+		c.reaches(t, name, "tellAll", "told", "pairs", "pairBit")
+		for _, other := range []string{"productTo", "timesOver", "summed"} {
+			if c.uses(c.bodyOf(name), other, map[string]bool{}) {
+				t.Errorf("%s multiplies whole factors", name)
+			}
+		}
+	}
+	c.reaches(t, "NextTo", "pairs", "bitOf")
+	if !setsIn(c.bodyOf("tell"), "told") {
+		t.Error("tell does not keep what is told")
+	}
+	if c.uses(c.bodyOf("known"), "tell", map[string]bool{}) {
+		t.Error("what is told is told again wherever it is used")
+	}
+	if !c.countsDown("tellAll", "tell") || countLoops(c.bodyOf("tellAll")) != 2 {
+		t.Error("tellAll does not go from the leaves to the roots, and back")
+	}
+}
+
 // countsDown reports whether a function has a loop that counts down and calls another one.
 func (c *code) countsDown(name string, called string) bool {
 	found := false
@@ -244,7 +268,8 @@ func (c *code) countsDown(name string, called string) bool {
 	return found
 }
 
-// setsIn reports whether a piece of code sets elements of a list that is a field.
+// setsIn reports whether a piece of code sets elements of a list that is a field,
+// or of lists in it.
 func setsIn(n ast.Node, field string) bool {
 	found := false
 	ast.Inspect(n, func(n ast.Node) bool {
@@ -252,9 +277,11 @@ func setsIn(n ast.Node, field string) bool {
 		if !ok || len(set.Lhs) != 1 {
 			return true
 		}
-		if element, ok := set.Lhs[0].(*ast.IndexExpr); ok {
+		element, is := set.Lhs[0].(*ast.IndexExpr)
+		for is {
 			list, ok := element.X.(*ast.SelectorExpr)
 			found = found || ok && list.Sel.Name == field
+			element, is = element.X.(*ast.IndexExpr)
 		}
 		return true
 	})
