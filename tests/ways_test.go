@@ -3,6 +3,7 @@ package tests
 import (
 	"go/ast"
 	"go/token"
+	"go/types"
 	"testing"
 )
 
@@ -27,7 +28,9 @@ func (c *code) uses(n ast.Node, name string, seen map[string]bool) bool {
 			return !found
 		}
 		found = id.Name == name
-		if body := c.bodyOf(id.Name); !found && body != nil && !seen[id.Name] {
+		// A variable may have the name of a function.
+		_, isFunc := c.info.Uses[id].(*types.Func)
+		if body := c.bodyOf(id.Name); !found && isFunc && body != nil && !seen[id.Name] {
 			seen[id.Name] = true
 			found = c.uses(body, name, seen)
 		}
@@ -253,6 +256,31 @@ func TestWaysOfMessages(t *testing.T) {
 	if !c.countsDown("tellAll", "tell") || countLoops(c.bodyOf("tellAll")) != 2 {
 		t.Error("tellAll does not go from the leaves to the roots, and back")
 	}
+}
+
+// Of the section Ways: cells found by a table of what they are; products by pairs
+// of cells; sums kept with each cell.
+func TestWaysOfDiagrams(t *testing.T) {
+	c := readCode(t)
+	for _, name := range []string{"DiagramOf", "Least", "DiagramTimes"} {
+		c.reaches(t, name, "cellFor", "slotOf", "slots")
+	}
+	if !setsIn(c.bodyOf("cellFor"), "slots") {
+		t.Error("cellFor does not keep in the table where a cell is")
+	}
+	c.reaches(t, "slotOf", "levelOf", "Num", "Kids")
+	c.reaches(t, "DiagramTimes", "cellOfPair", "kept")
+	if !setsIn(c.bodyOf("cellOfPair"), "kept") {
+		t.Error("cellOfPair does not keep what a pair is")
+	}
+	for _, name := range []string{"DiagramTimes", "DiagramSum", "CellSums"} {
+		for _, other := range []string{"numberLedTo", "weave", "States"} {
+			if c.uses(c.bodyOf(name), other, map[string]bool{}) {
+				t.Errorf("%s goes over all states", name)
+			}
+		}
+	}
+	c.reaches(t, "DiagramSum", "CellSums")
 }
 
 // countsDown reports whether a function has a loop that counts down and calls another one.
