@@ -65,7 +65,7 @@ func StmtOk(s Stmt) bool {
 	if !fieldOk(code[0], s.A, s.A) || !fieldOk(code[codeB], s.B, s.A) || !fieldOk(code[codeC], s.C, s.A) {
 		return false
 	}
-	if code[codeW] == 'w' {
+	if hasWeights(s) {
 		return weightsOk(s.W)
 	}
 	return s.W == [3]int{}
@@ -257,6 +257,9 @@ func placeOf(v int) int {
 	}
 	return 27
 }
+
+// hasWeights reports whether a statement, whose kind must be one, is of those with weights.
+func hasWeights(s Stmt) bool { return kindCode(s.Kind)[codeW] == 'w' }
 
 func isDraw(s Stmt) bool { return s.Kind == StDraw || s.Kind == StDrawBy }
 

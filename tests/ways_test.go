@@ -283,6 +283,31 @@ func TestWaysOfDiagrams(t *testing.T) {
 	c.reaches(t, "DiagramSum", "CellSums")
 }
 
+// Of the section Ways: pairs of numbers that are added and multiplied together; all
+// slopes at once, from the end; states with a weight alone.
+func TestWaysOfSlopes(t *testing.T) {
+	c := readCode(t)
+	c.reaches(t, "SlopeOf", "sloped", "toEnd", "stepIn", "weightOf")
+	c.reaches(t, "stepIn", "plus", "times")
+	for _, name := range []string{"plus", "times"} {
+		c.reaches(t, name, "sloped", "weight", "slope")
+	}
+	if c.uses(c.bodyOf("SlopeOf"), "WeightsFrom", map[string]bool{}) {
+		t.Error("SlopeOf takes weights and slopes one behind the other")
+	}
+	for _, name := range []string{"UsesOf", "PassedOver", "Steepest"} {
+		c.reaches(t, name, "totalSlopes")
+		if c.uses(c.bodyOf(name), "sloped", map[string]bool{}) {
+			t.Errorf("%s tells slopes one by one", name)
+		}
+	}
+	if many := countLoops(c.bodyOf("totalSlopes")); many != 1 || !c.countsDown("totalSlopes", "slopesBehind") {
+		t.Errorf("totalSlopes goes over statements %d times, or not from the last one on", many)
+	}
+	c.reaches(t, "totalSlopes", "takeBack", "frontsOf", "runs")
+	c.reaches(t, "toEnd", "sloped")
+}
+
 // countsDown reports whether a function has a loop that counts down and calls another one.
 func (c *code) countsDown(name string, called string) bool {
 	found := false
