@@ -308,6 +308,32 @@ func TestWaysOfSlopes(t *testing.T) {
 	c.reaches(t, "toEnd", "sloped")
 }
 
+// Of the section Ways: values backward for all policies at once; acts that see what
+// is drawn ahead of them decided by what is worth most there.
+func TestWaysOfDeciding(t *testing.T) {
+	c := readCode(t)
+	for _, name := range []string{"WorthBy", "BestPolicy", "BetterBy", "Climb"} {
+		c.reaches(t, name, "worthsOf", "passBack", "rowAhead", "ledFrom", "choiceOf")
+		for _, forward := range []string{"sweep", "tracer"} {
+			if c.uses(c.bodyOf(name), forward, map[string]bool{}) {
+				t.Errorf("%s goes forward by %s", name, forward)
+			}
+		}
+	}
+	if many := countLoops(c.bodyOf("worthsOf")); many != 1 || !c.countsDown("worthsOf", "passBack") {
+		t.Errorf("worthsOf goes over statements %d times, or not from the last one on", many)
+	}
+	for _, name := range []string{"worthUnder", "worthsBehind", "bestOf", "decidedBy", "betterOf"} {
+		if c.uses(c.bodyOf(name), "worthsOf", map[string]bool{}) {
+			t.Errorf("%s goes over statements for policies one by one", name)
+		}
+	}
+	c.reaches(t, "BestPolicy", "bestOf", "worthsBehind", "decidedBy")
+	if c.uses(c.bodyOf("decidedBy"), "nextRow", map[string]bool{}) {
+		t.Error("decidedBy tries all rows of the last act")
+	}
+}
+
 // countsDown reports whether a function has a loop that counts down and calls another one.
 func (c *code) countsDown(name string, called string) bool {
 	found := false
